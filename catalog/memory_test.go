@@ -2,6 +2,7 @@ package catalog_test
 
 import (
 	"reflect"
+	"slices"
 	"testing"
 	"unsafe"
 
@@ -12,7 +13,7 @@ import (
 // roomy tells x with lists that have room behind them, and something in it.
 func roomy[T any](x T) T {
 	x = deepCopy(x)
-	for _, s := range spots(&x) {
+	for _, s := range slices.Backward(spots(&x)) { // a list is made anew behind what is in it
 		if s.v.Kind() == reflect.Slice && s.v.Len() > 0 {
 			n := s.v.Len()
 			l := reflect.MakeSlice(s.v.Type(), n+2, n+2)

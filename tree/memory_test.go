@@ -3,6 +3,7 @@ package tree_test
 import (
 	"errors"
 	"reflect"
+	"slices"
 	"strings"
 	"testing"
 	"unsafe"
@@ -15,7 +16,7 @@ import (
 func roomy(x api.Stmt) api.Stmt {
 	x = deepCopy(x)
 	c := byChance(3)
-	for _, s := range spots(&x) {
+	for _, s := range slices.Backward(spots(&x)) { // a list is made anew behind what is in it
 		if s.v.Kind() == reflect.Slice && s.v.Len() > 0 {
 			n := s.v.Len()
 			l := reflect.MakeSlice(s.v.Type(), n+2, n+2)
